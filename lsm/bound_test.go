@@ -128,16 +128,7 @@ func enoughStep(r *rand.Rand, db *lsm.DB, s shape, left *budget) error {
 		return db.Write(batch)
 	}
 	left.calls--
-	var err error
-	switch r.Intn(3) {
-	case 0:
-		err = db.Flush()
-	case 1:
-		_, err = db.Compact(r.Intn(api.MaxLevels - 1))
-	default:
-		_, err = db.Settle(1)
-	}
-	return err
+	return disturb(r, db, 1)
 }
 
 // again: a disk as a fall of power, or none, leaves it, and faults that are to come.

@@ -279,9 +279,23 @@ func TestWrongEdits(t *testing.T) {
 
 // TestWrongTables: tables whose bytes are right, but that no store writes.
 func TestWrongTables(t *testing.T) {
-	for seq, want := range []api.Errno{api.ErrLsmBroken, api.OK, api.OK, api.ErrLsmBroken} {
-		key, _ := codec.Key([]byte("a"), uint64(seq), api.Set)
-		b, _ := table.Build([]api.KV{{Key: key, Value: []byte("1")}}, options().Plan)
+	long := make([]byte, api.MaxValue+1)
+	for i, c := range []struct {
+		seq   uint64
+		kind  int
+		value []byte
+		want  api.Errno
+	}{
+		{1, api.Set, nil, api.OK},
+		{2, api.Set, long[1:], api.OK},
+		{2, api.Delete, nil, api.OK},
+		{0, api.Set, nil, api.ErrLsmBroken},
+		{3, api.Set, nil, api.ErrLsmBroken},
+		{2, api.Set, long, api.ErrLsmBroken},
+		{2, api.Delete, []byte("1"), api.ErrLsmBroken},
+	} {
+		key, _ := codec.Key([]byte("a"), c.seq, c.kind)
+		b, _ := table.Build([]api.KV{{Key: key, Value: c.value}}, options().Plan)
 		f := api.File{Number: 0, Size: len(b), Least: key, Most: key}
 		x, _ := manifest.Encode(api.Edit{Next: 1, Seq: 2, Add: []api.Placed{{Level: 1, File: f}}})
 		d := newDisk(t, 1<<20)
@@ -290,8 +304,8 @@ func TestWrongTables(t *testing.T) {
 			d.Append(name, content)
 		}
 		db, err := lsm.Open(d, options())
-		if !is(err, want) || err == nil && (db.Last() != 2 || say(db, 2) != `"a"="1" `) {
-			t.Errorf("P11.1: an entry of the moment %d: %v", seq, err)
+		if !is(err, c.want) || err == nil && db.Last() != 2 {
+			t.Errorf("P11.1: row %d: %v", i, err)
 		}
 	}
 }

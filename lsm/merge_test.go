@@ -443,7 +443,9 @@ func TestUnlike(t *testing.T) {
 			holdAlike(t, r, stores, m)
 			for _, db := range stores {
 				for range r.Intn(4) {
-					disturb(t, r, db)
+					if err := disturb(r, db, r.Intn(3)); err != nil {
+						t.Fatal(err)
+					}
 				}
 			}
 		}
@@ -481,9 +483,8 @@ func holdAlike(t *testing.T, r *rand.Rand, stores []*lsm.DB, m *model) {
 	}
 }
 
-// disturb flushes or merges something.
-func disturb(t *testing.T, r *rand.Rand, db *lsm.DB) {
-	t.Helper()
+// disturb flushes or merges something, in at most so many steps.
+func disturb(r *rand.Rand, db *lsm.DB, steps int) error {
 	var err error
 	switch r.Intn(3) {
 	case 0:
@@ -491,11 +492,9 @@ func disturb(t *testing.T, r *rand.Rand, db *lsm.DB) {
 	case 1:
 		_, err = db.Compact(r.Intn(api.MaxLevels - 1))
 	default:
-		_, err = db.Settle(r.Intn(3))
+		_, err = db.Settle(steps)
 	}
-	if err != nil {
-		t.Fatal(err)
-	}
+	return err
 }
 
 // TestOptionsOfOthers: that a store may be opened again by any options.

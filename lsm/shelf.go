@@ -53,11 +53,17 @@ func openTable(f api.File, b []byte, flushed uint64) (*shelf, error) {
 		return nil, fault("another table", api.ErrLsmBroken)
 	}
 	for _, x := range l {
-		if _, seq, _, _ := codec.Split(x.Key); seq < 1 || seq > flushed {
-			return nil, fault("an entry of no moment", api.ErrLsmBroken)
+		if !isWritten(x, flushed) {
+			return nil, fault("an entry of no batch", api.ErrLsmBroken)
 		}
 	}
 	return shelve(t, l), nil
+}
+
+// isWritten tells whether an entry may be of one of the operations up to the number flushed.
+func isWritten(x api.KV, flushed uint64) bool {
+	user, seq, kind, _ := codec.Split(x.Key)
+	return 1 <= seq && seq <= flushed && isSoundOp(api.Op{Delete: kind == api.Delete, Key: user, Value: x.Value})
 }
 
 // made: a table that isn't on the disk yet.
