@@ -130,7 +130,7 @@ func lead(path []byte, n node) (node, api.Errno) {
 	case *leaf:
 		return makeLeaf(slices.Concat(path, x.path), x.value)
 	case *stem:
-		return makeStem(slices.Concat(path, x.path), x.below)
+		return lead(slices.Concat(path, x.path), x.below)
 	}
 	return makeStem(path, n)
 }

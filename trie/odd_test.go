@@ -236,6 +236,32 @@ func TestDeepNode(t *testing.T) {
 	}
 }
 
+// TestPathsBecomeOne: paths above leaves and above paths, as no map has them: behind a change on the key's way they are as the map's.
+func TestPathsBecomeOne(t *testing.T) {
+	l := []api.Node{named(1, way("\x01", hash(2))), named(2, way("\x02", hash(3))), named(3, leaf("\x03\x04", one("x"))), named(4, way("\x01", hash(5))), named(5, way("\x02", hash(6))), named(6, fork(map[int]api.Item{3: leaf("\x04", one("x")), 4: way("\x05", leaf("", one("y")))}))}
+	both := map[string]string{"\x12\x34": "x", "\x12\x45": "y"}
+	for _, c := range []struct {
+		name int
+		m    map[string]string
+		d    deed
+	}{
+		{0, map[string]string{"\x12\x34": "x"}, deed{"Put", "\x12\x34", "new"}}, {0, map[string]string{"\x12\x34": "x"}, deed{"Put", "\x12\x35", "new"}}, {0, map[string]string{"\x12\x34": "x"}, deed{"Put", "\x12", "new"}},
+		{0, map[string]string{"\x12\x34": "x"}, deed{"Delete", "\x12\x34", ""}}, {3, both, deed{"Put", "\x12\x34", "new"}}, {3, both, deed{"Put", "\x12\x45", "new"}}, {3, both, deed{"Delete", "\x12\x34", ""}}, {3, both, deed{"Delete", "\x12\x45", ""}},
+	} {
+		x := trie.New(l[c.name].Hash, l)
+		tellsAll(t, x, c.m)
+		if _, _, e := c.d.on(x); e != api.OK {
+			t.Fatalf("P14.5: %q: %d", c.d, e)
+		}
+		m := c.d.changed(c.m)
+		tellsAll(t, x, m)
+		if c.d.key == "\x12\x34" && c.name == 3 && c.d.kind == "Put" {
+			continue // beside its way one is left
+		}
+		isMap(t, x, m)
+	}
+}
+
 // TestRound: nodes that refer to themselves: each call ends.
 func TestRound(t *testing.T) {
 	for _, top := range []api.Node{named(1, way("\x01", hash(1))), named(1, fork(map[int]api.Item{1: hash(1), 2: hash(1)})), named(1, fork(map[int]api.Item{1: hash(1), 16: one("x")})), named(1, way(strings.Repeat("\x01", 127), hash(1)))} {
